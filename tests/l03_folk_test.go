@@ -370,11 +370,8 @@ func TestFolkStayAndAnswersAreNewMemory(t *testing.T) {
 }
 
 // scribble writes over a list and over the spare room behind it, to show whose memory it is.
-func scribble(l []impl.Purse) {
-	l = l[:cap(l)]
-	for i := range l {
-		l[i] = impl.Purse{Name: "ours", Free: -7}
-	}
+func scribble[T any](l []T) {
+	clear(l[:cap(l)])
 }
 
 func TestAnswersOfFolkShareNothingWithEachOther(t *testing.T) {
