@@ -8,6 +8,12 @@ import (
 	"loop.example/g00614/impl"
 )
 
+// deed is a call that makes another book of one, and what its chapter tells of that.
+type deed interface {
+	of(b impl.Book) (impl.Book, int64)
+	told(b impl.Book) (impl.Book, int64)
+}
+
 // ask is one of the calls of chapter 8, and what it asks for: a purse has no cut.
 type ask struct {
 	call string
@@ -129,11 +135,11 @@ func openBooks() []impl.Book {
 
 var cuts = []int64{least, least + 5, -1 << 32, -101, -100, -5, -2, -1, 0, 1, 2, 4, 5, 6, 50, 99, 100, 101, 102, 255, 256, 1 << 32, 1<<32 + 1, greatest}
 
-func checkAsk(t *testing.T, a ask, b impl.Book) int64 {
+func checkDeed(t *testing.T, d deed, b impl.Book) int64 {
 	t.Helper()
-	got, code := a.of(b)
-	if want, wanted := a.told(b); code != wanted || !alike(got, want) {
-		t.Errorf("%+v of %+v = %+v, %d; want %+v, %d", a, b, got, code, want, wanted)
+	got, code := d.of(b)
+	if want, wanted := d.told(b); code != wanted || !alike(got, want) {
+		t.Errorf("%+v of %+v = %+v, %d; want %+v, %d", d, b, got, code, want, wanted)
 	}
 	return code
 }
@@ -303,8 +309,8 @@ func TestOpenRefuses(t *testing.T) {
 	}
 }
 
-// A book that is not right is MlBad ahead of all else that is told.
-func TestOpenOfWrongBooks(t *testing.T) {
+// wrongBooks are not right, each for one reason.
+func wrongBooks() []impl.Book {
 	wrong := slices.Concat(brokenLists(), brokenNumbers(), untold())
 	for _, n := range []int64{-1, 1} { // a coin too few or too many, and nothing else
 		wrong = append(wrong,
@@ -316,8 +322,13 @@ func TestOpenOfWrongBooks(t *testing.T) {
 			changed(func(b *impl.Book) { b.Waits[0].Amount += n }),
 		)
 	}
+	return wrong
+}
+
+// A book that is not right is MlBad ahead of all else that is told.
+func TestOpenOfWrongBooks(t *testing.T) {
 	asks := asksFor([]string{"", "ann", "bob", "tom", "zoe", "eve", "a", "Ann"}, []int64{-1, 0, 5, 101})
-	for _, b := range wrong {
+	for _, b := range wrongBooks() {
 		for _, a := range asks {
 			if got, code := a.of(b); code != 7 || !alike(got, impl.Book{}) {
 				t.Errorf("%+v of %+v = %+v, %d", a, b, got, code)
@@ -333,7 +344,7 @@ func TestOpenOfAllBooks(t *testing.T) {
 			t.Fatalf("%+v is not right", b)
 		}
 		for _, a := range asksFor(append([]string{"eve", "aaa", "zz", "m", "bobb"}, askedOfBooks...), cuts) {
-			code := checkAsk(t, a, b)
+			code := checkDeed(t, a, b)
 			seen[ask{call: a.call, cut: code}]++
 		}
 	}
@@ -500,20 +511,20 @@ func TestOpenIsNewMemoryAndBooksStay(t *testing.T) {
 	}
 }
 
-func checkMemory(t *testing.T, a ask, b impl.Book) {
+func checkMemory(t *testing.T, d deed, b impl.Book) {
 	t.Helper()
 	tight, full := roomy(b)
 	given := copyOf(full)
-	first, _ := a.of(tight)
-	second, _ := a.of(tight)
-	want, _ := a.told(b)
+	first, _ := d.of(tight)
+	second, _ := d.of(tight)
+	want, _ := d.told(b)
 	if scribbleBook(first); !alike(full, given) {
-		t.Fatalf("%+v: %+v became %+v", a, given, full)
+		t.Fatalf("%+v: %+v became %+v", d, given, full)
 	}
 	if !alike(second, want) {
-		t.Fatalf("%+v of %+v: two answers share their lists: %+v", a, b, second)
+		t.Fatalf("%+v of %+v: two answers share their lists: %+v", d, b, second)
 	}
 	if scribbleBook(full); !alike(second, want) {
-		t.Fatalf("%+v of %+v became %+v with what it was given", a, b, second)
+		t.Fatalf("%+v of %+v became %+v with what it was given", d, b, second)
 	}
 }
