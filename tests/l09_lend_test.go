@@ -269,18 +269,18 @@ func TestGivenUpToMaxAmount(t *testing.T) {
 	}
 }
 
-// refusal is a loan that is refused, and how.
+// refusal is a deed that is refused, and how.
 type refusal struct {
 	book impl.Book
-	loan loan
+	deed deed
 	code int64
 }
 
 func checkRefused(t *testing.T, l []refusal) {
 	t.Helper()
 	for _, c := range l {
-		if got, code := c.loan.of(c.book); code != c.code || !alike(got, c.book) {
-			t.Errorf("%+v of %+v = %+v, %d; want it as it is, %d", c.loan, c.book, got, code, c.code)
+		if got, code := c.deed.of(c.book); code != c.code || !alike(got, c.book) {
+			t.Errorf("%+v of %+v = %+v, %d; want it as it is, %d", c.deed, c.book, got, code, c.code)
 		}
 	}
 }
